@@ -189,8 +189,10 @@ func (r relation) cliques() ([]set, bool) {
 	})
 }
 
-// maximalAmong returns those of all cliques of the relation that are not subsets of other ones.
-func (r relation) maximalAmong(cliques []set) []set {
+// maximalCliques returns the cliques that are not subsets of other ones, in ascending order, and
+// whether all cliques are at most MaxFamily.
+func (r relation) maximalCliques() ([]set, bool) {
+	cliques, ok := r.cliques()
 	mutual := r.mutual()
 	var list []set
 	for _, c := range cliques {
@@ -202,7 +204,7 @@ func (r relation) maximalAmong(cliques []set) []set {
 			list = append(list, c)
 		}
 	}
-	return list
+	return list, ok
 }
 
 // downsets returns all downsets of an order in ascending order, and whether they are at most
@@ -238,6 +240,19 @@ func familyOf(elements []int64, fits func(s set, k int64) bool) ([]set, bool) {
 	}
 	slices.Sort(family)
 	return family, true
+}
+
+// familyIn returns the masks of a family of sets of a relation, and ErrNone. It returns ErrInvalid
+// if the relation was found not to be valid, and otherwise ErrLimit if the family is too large.
+func familyIn(r relation, isValid bool, family func(relation) ([]set, bool)) ([]int64, int64) {
+	if !isValid {
+		return nil, ErrInvalid
+	}
+	sets, ok := family(r)
+	if !ok {
+		return nil, ErrLimit
+	}
+	return masksOf(sets), ErrNone
 }
 
 // IsMask reports whether n is in 0..MaxSet and mask is a mask of n elements.
@@ -325,40 +340,19 @@ func ComponentsOf(r []int64) ([]int64, int64) {
 // more than MaxFamily.
 func CliquesOf(r []int64) ([]int64, int64) {
 	rel, ok := relationOf(r)
-	if !ok {
-		return nil, ErrInvalid
-	}
-	cliques, ok := rel.cliques()
-	if !ok {
-		return nil, ErrLimit
-	}
-	return masksOf(cliques), ErrNone
+	return familyIn(rel, ok, relation.cliques)
 }
 
 // MaximalCliques returns the cliques that are not subsets of other cliques, in ascending order,
 // and ErrNone. Errors: as for CliquesOf.
 func MaximalCliques(r []int64) ([]int64, int64) {
 	rel, ok := relationOf(r)
-	if !ok {
-		return nil, ErrInvalid
-	}
-	cliques, ok := rel.cliques()
-	if !ok {
-		return nil, ErrLimit
-	}
-	return masksOf(rel.maximalAmong(cliques)), ErrNone
+	return familyIn(rel, ok, relation.maximalCliques)
 }
 
 // DownsetsOf returns all downsets of an order in ascending order, and ErrNone. Errors: ErrLimit if
 // there are more than MaxFamily.
 func DownsetsOf(r []int64) ([]int64, int64) {
 	order, ok := orderOf(r)
-	if !ok {
-		return nil, ErrInvalid
-	}
-	downsets, ok := order.downsets()
-	if !ok {
-		return nil, ErrLimit
-	}
-	return masksOf(downsets), ErrNone
+	return familyIn(order, ok, relation.downsets)
 }
