@@ -921,15 +921,18 @@ func TestResidualsOfLongWordsAreFast(t *testing.T) {
 	}
 }
 
-func TestResidualsShareNoMemory(t *testing.T) {
-	texts := []string{"", "a", "ca", "cabd", "acacbdbd", "aacc", "abcdabcd"}
+// checkMemory reports an error if functions of a word and another one, which calls returns for this
+// one, change or share an argument, keep a result, or return lists that share memory. The words are
+// all pairs of words of the square with some texts.
+func checkMemory(t *testing.T, texts []string, calls func(v []int64) []wordCall) {
+	t.Helper()
 	for _, text := range texts {
 		for _, other := range texts {
 			depends, isDependsKept := spacious(square().Depends)
 			x := impl.Alphabet{Letters: 4, Depends: depends}
 			w, isKept := spacious(word(text))
 			v, isOtherKept := spacious(word(other))
-			for _, f := range residualCalls(v, 5) {
+			for _, f := range calls(v) {
 				got, code := f.call(x, w)
 				want, wantCode := f.call(x, w)
 				for i := range got {
@@ -944,6 +947,11 @@ func TestResidualsShareNoMemory(t *testing.T) {
 			}
 		}
 	}
+}
+
+func TestResidualsShareNoMemory(t *testing.T) {
+	texts := []string{"", "a", "ca", "cabd", "acacbdbd", "aacc", "abcdabcd"}
+	checkMemory(t, texts, func(v []int64) []wordCall { return residualCalls(v, 5) })
 }
 
 func TestRefinementsShareNoMemory(t *testing.T) {
