@@ -921,9 +921,26 @@ func TestResidualsOfLongWordsAreFast(t *testing.T) {
 	}
 }
 
-// checkMemory reports an error if functions of a word and another one, which calls returns for this
-// one, change or share an argument, keep a result, or return lists that share memory. The words are
-// all pairs of words of the square with some texts.
+// checkFresh reports an error if a call changes or shares an argument, as areKept tells, keeps a
+// result, or returns lists that share memory.
+func checkFresh(t *testing.T, name string, areKept func() bool, call func() ([][]int64, int64)) {
+	t.Helper()
+	got, code := call()
+	want, wantCode := call()
+	for i := range got {
+		if code != wantCode || !areEqualLists(got[i:], want[i:]) {
+			t.Errorf("%s = %v, %d, or its lists share memory", name, got, code)
+		}
+		scribble(got[i])
+	}
+	clear(got[:cap(got)])
+	if again, _ := call(); !areEqualLists(again, want) || !areKept() {
+		t.Fatalf("%s changes or shares an argument, or keeps a result", name)
+	}
+}
+
+// checkMemory does this with functions of a word and another one, which calls returns for this one.
+// The words are all pairs of words of the square with some texts.
 func checkMemory(t *testing.T, texts []string, calls func(v []int64) []wordCall) {
 	t.Helper()
 	for _, text := range texts {
@@ -932,18 +949,9 @@ func checkMemory(t *testing.T, texts []string, calls func(v []int64) []wordCall)
 			x := impl.Alphabet{Letters: 4, Depends: depends}
 			w, isKept := spacious(word(text))
 			v, isOtherKept := spacious(word(other))
+			areKept := func() bool { return isDependsKept() && isKept() && isOtherKept() }
 			for _, f := range calls(v) {
-				got, code := f.call(x, w)
-				want, wantCode := f.call(x, w)
-				for i := range got {
-					if code != wantCode || !areEqualLists(got[i:], want[i:]) {
-						t.Errorf("%s(%s, %s) = %v, %d, or its lists share memory", f.name, text, other, got, code)
-					}
-					scribble(got[i])
-				}
-				if again, _ := f.call(x, w); !areEqualLists(again, want) || !isDependsKept() || !isKept() || !isOtherKept() {
-					t.Fatalf("%s(%s, %s) changes or shares an argument", f.name, text, other)
-				}
+				checkFresh(t, f.name+" of "+text+" and "+other, areKept, func() ([][]int64, int64) { return f.call(x, w) })
 			}
 		}
 	}

@@ -904,17 +904,7 @@ func TestCountsShareNoMemory(t *testing.T) {
 	x := impl.Alphabet{Letters: 4, Depends: depends}
 	check := func(name string, call func() ([][]int64, int64)) {
 		t.Helper()
-		got, code := call()
-		want, wantCode := call()
-		for i := range got {
-			if code != wantCode || !areEqualLists(got[i:], want[i:]) {
-				t.Errorf("%s = %v, %d, or its lists share memory", name, got, code)
-			}
-			scribble(got[i])
-		}
-		if again, _ := call(); !areEqualLists(again, want) || !isDependsKept() {
-			t.Fatalf("%s changes or shares an argument, or keeps a result", name)
-		}
+		checkFresh(t, name, isDependsKept, call)
 	}
 	for n := range int64(5) {
 		for _, f := range lengthCalls(5, n) {
