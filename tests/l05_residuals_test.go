@@ -943,15 +943,21 @@ func checkFresh(t *testing.T, name string, areKept func() bool, call func() ([][
 // The words are all pairs of words of the square with some texts.
 func checkMemory(t *testing.T, texts []string, calls func(v []int64) []wordCall) {
 	t.Helper()
-	for _, text := range texts {
-		for _, other := range texts {
+	checkMemoryOfLists(t, words(texts...), calls)
+}
+
+// checkMemoryOfLists does this with all pairs of some lists.
+func checkMemoryOfLists(t *testing.T, lists [][]int64, calls func(v []int64) []wordCall) {
+	t.Helper()
+	for _, list := range lists {
+		for _, other := range lists {
 			depends, isDependsKept := spacious(square().Depends)
 			x := impl.Alphabet{Letters: 4, Depends: depends}
-			w, isKept := spacious(word(text))
-			v, isOtherKept := spacious(word(other))
+			w, isKept := spacious(list)
+			v, isOtherKept := spacious(other)
 			areKept := func() bool { return isDependsKept() && isKept() && isOtherKept() }
 			for _, f := range calls(v) {
-				checkFresh(t, f.name+" of "+text+" and "+other, areKept, func() ([][]int64, int64) { return f.call(x, w) })
+				checkFresh(t, f.name+" of "+key(list)+" and "+key(other), areKept, func() ([][]int64, int64) { return f.call(x, w) })
 			}
 		}
 	}
